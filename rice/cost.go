@@ -1,6 +1,10 @@
 package rice
 
-import "iter"
+import (
+	"cmp"
+
+	"shawm/pick"
+)
 
 // costs are how many bits the words of a list have with each parameter.
 type costs [maxParameter + 1]int
@@ -18,7 +22,7 @@ func costsOf(l []int) costs {
 
 // best is the parameter that costs least.
 func (c costs) best() int {
-	return least(parameters, func(k int) int { return c[k] })
+	return pick.Least(parameters, func(a, b int) int { return cmp.Compare(c[a], c[b]) })
 }
 
 // parameters gives all parameters, from 0 on.
@@ -28,16 +32,4 @@ func parameters(yield func(int) bool) {
 			return
 		}
 	}
-}
-
-// least returns the first one of the choices that cost least. There has to be one.
-func least[T any](choices iter.Seq[T], cost func(T) int) T {
-	var best T
-	found := false
-	for x := range choices {
-		if !found || cost(x) < cost(best) {
-			best, found = x, true
-		}
-	}
-	return best
 }

@@ -1,10 +1,12 @@
 package rice
 
 import (
+	"cmp"
 	"iter"
 
 	"shawm/api"
 	"shawm/bits"
+	"shawm/pick"
 )
 
 const (
@@ -106,7 +108,7 @@ type layout struct {
 
 // layoutOf is the layout of l that has the least bits.
 func layoutOf(l []int) layout {
-	return least(layouts(l), func(x layout) int { return x.cost })
+	return pick.Least(layouts(l), func(a, b layout) int { return cmp.Compare(a.cost, b.cost) })
 }
 
 // layouts gives the layouts of l with each order that it can have.

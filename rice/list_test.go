@@ -9,50 +9,16 @@ import (
 
 	"shawm/api"
 	"shawm/bits"
+	"shawm/bittext"
 	"shawm/rice"
 )
 
-// open returns a reader of these digits, behind which more bits of the last byte are ones.
-func open(t *testing.T, s string) *bits.Reader {
-	t.Helper()
-	b := make([]byte, (len(s)+7)/8)
-	for i := range 8 * len(b) {
-		if i >= len(s) || s[i] == '1' {
-			b[i/8] |= 128 >> (i % 8)
-		}
-	}
-	r, e := bits.Open(b, len(s))
-	if e != api.OK {
-		t.Fatalf("Open of %q: %d", s, e)
-	}
-	return r
-}
-
-// text are the bits of a writer as digits.
-func text(w *bits.Writer) string {
-	var s strings.Builder
-	for _, x := range w.Bytes() {
-		s.WriteString(digits(int(x), 8))
-	}
-	return s.String()[:w.Len()]
-}
-
-// filled returns a writer that has room for n bits more.
-func filled(t *testing.T, n int) *bits.Writer {
-	t.Helper()
-	w := bits.New()
-	if e := w.Append(make([]byte, api.MaxBits/8), api.MaxBits-n); e != api.OK {
-		t.Fatalf("Append: %d", e)
-	}
-	return w
-}
-
 // textOf is l in parts, with that order and these parameters.
 func textOf(l []int, p int, parameters ...int) string {
-	s := digits(p, 2)
+	s := bittext.Number(p, 2)
 	n := len(l) / len(parameters)
 	for i, k := range parameters {
-		s += digits(k, 4)
+		s += bittext.Number(k, 4)
 		for _, v := range l[i*n : i*n+n] {
 			s += wordOf(v, k)
 		}
@@ -76,12 +42,12 @@ func TestPut(t *testing.T) {
 		v, k int
 		want string
 	}{
-		{-3, 1, "0011"}, {12, 0, strings.Repeat("0", 24) + "1" + digits(24, 32)}, {0, 0, "1"}, {0, 3, "1000"}, {-1, 3, "1001"},
+		{-3, 1, "0011"}, {12, 0, strings.Repeat("0", 24) + "1" + bittext.Number(24, 32)}, {0, 0, "1"}, {0, 3, "1000"}, {-1, 3, "1001"},
 		{-1 << 31, 14, strings.Repeat("0", 24) + "1" + strings.Repeat("1", 32)}, {12<<14 - 1, 14, strings.Repeat("0", 23) + "111111111111110"},
 	} {
 		w := bits.New()
-		if e := rice.Put(w, c.v, c.k); e != api.OK || text(w) != c.want {
-			t.Errorf("Put of %d with %d: %s, %d, want %s", c.v, c.k, text(w), e, c.want)
+		if e := rice.Put(w, c.v, c.k); e != api.OK || bittext.Of(w) != c.want {
+			t.Errorf("Put of %d with %d: %s, %d, want %s", c.v, c.k, bittext.Of(w), e, c.want)
 		}
 	}
 	w := &bits.Writer{}
@@ -95,7 +61,7 @@ func TestPut(t *testing.T) {
 			}
 		}
 	}
-	if text(w) != want {
+	if bittext.Of(w) != want {
 		t.Error("Put adds other words than those of the chapter")
 	}
 }
@@ -105,8 +71,8 @@ func TestPutErrors(t *testing.T) {
 	w.Put(5, 3)
 	refused := func(want, e api.Errno) {
 		t.Helper()
-		if e != want || text(w) != "101" {
-			t.Errorf("Put: %d, want the error %d; the writer has %s", e, want, text(w))
+		if e != want || bittext.Of(w) != "101" {
+			t.Errorf("Put: %d, want the error %d; the writer has %s", e, want, bittext.Of(w))
 		}
 	}
 	for _, k := range []int{-1, 15, 64, math.MaxInt, math.MinInt} {
@@ -131,19 +97,19 @@ func TestPutErrors(t *testing.T) {
 func TestPutFull(t *testing.T) {
 	for _, c := range []struct{ v, k int }{{0, 0}, {-1, 0}, {-3, 1}, {11, 0}, {12, 0}, {0, 14}, {12<<14 - 1, 14}, {-1 << 31, 0}, {1<<31 - 1, 14}} {
 		n := len(wordOf(c.v, c.k))
-		w := filled(t, n-1)
+		w := bittext.Filled(n - 1)
 		for room := n - 1; room >= 0; room-- {
 			if e := rice.Put(w, c.v, c.k); e != api.ErrFull || w.Len() != api.MaxBits-room {
 				t.Errorf("Put of %d bits into %d: %d", n, room, e)
 			}
 			w.Put(0, 1)
 		}
-		w = filled(t, n)
+		w = bittext.Filled(n)
 		if e := rice.Put(w, c.v, c.k); e != api.OK || w.Len() != api.MaxBits {
 			t.Errorf("Put of %d bits into as many: %d", n, e)
 		}
 	}
-	w := filled(t, 0)
+	w := bittext.Filled(0)
 	if e := rice.Put(w, 1<<31, 0); e != api.ErrRange {
 		t.Errorf("Put out of range into no room: %d", e)
 	}
@@ -182,7 +148,7 @@ func TestGet(t *testing.T) {
 // refuses fails unless Get returns that error, and leaves the reader alone.
 func refuses(t *testing.T, s string, k int, want api.Errno) {
 	t.Helper()
-	r := open(t, "10"+s)
+	r := bittext.Open("10" + s)
 	r.Get(2)
 	if v, e := rice.Get(r, k); v != 0 || e != want || r.At() != 2 {
 		t.Errorf("Get of %q with %d: %d, %d, want the error %d; it stops at %d", s, k, v, e, want, r.At())
@@ -201,11 +167,11 @@ func TestGetErrors(t *testing.T) {
 		refuses(t, zeros+"0", k, api.ErrForm)
 		refuses(t, zeros+"0"+zeros+"1", k, api.ErrForm)
 		for _, u := range []int{0, 1, 23, 24<<k - 1} {
-			refuses(t, zeros+"1"+digits(u, 32), k, api.ErrForm)
+			refuses(t, zeros+"1"+bittext.Number(u, 32), k, api.ErrForm)
 			// Bits that are not there come before what they say.
-			refuses(t, zeros+"1"+digits(u, 32)[:31], k, api.ErrShort)
+			refuses(t, zeros+"1"+bittext.Number(u, 32)[:31], k, api.ErrShort)
 		}
-		r := open(t, zeros+"1"+digits(24<<k, 32))
+		r := bittext.Open(zeros + "1" + bittext.Number(24<<k, 32))
 		v, e := rice.Get(r, k)
 		is(t, "Get of the least wide word", v, e, 12<<k)
 	}
@@ -226,10 +192,10 @@ func TestGetErrors(t *testing.T) {
 func TestWrite(t *testing.T) {
 	for i, l := range lists() {
 		w := bits.New()
-		ahead := digits(1, i%9+1)
+		ahead := bittext.Number(1, i%9+1)
 		w.Put(1, i%9+1)
 		kept := slices.Clone(l)
-		if e := rice.Write(w, l); e != api.OK || text(w) != ahead+bestText(l) || !slices.Equal(l, kept) {
+		if e := rice.Write(w, l); e != api.OK || bittext.Of(w) != ahead+bestText(l) || !slices.Equal(l, kept) {
 			t.Errorf("Write of %v: %d", l, e)
 		}
 		if _, cost, _ := rice.Order(l); w.Len() != len(ahead)+cost {
@@ -244,12 +210,12 @@ func TestWrite(t *testing.T) {
 		}
 	}
 	w := bits.New()
-	if e := rice.Write(w, nil); e != api.OK || text(w) != "000000" {
-		t.Errorf("Write of an empty list: %q, %d", text(w), e)
+	if e := rice.Write(w, nil); e != api.OK || bittext.Of(w) != "000000" {
+		t.Errorf("Write of an empty list: %q, %d", bittext.Of(w), e)
 	}
 	w = bits.New()
-	if e := rice.Write(w, []int{7}); e != api.OK || text(w) != "00"+"0011"+"01"+"110" {
-		t.Errorf("Write of 7: %q, %d", text(w), e)
+	if e := rice.Write(w, []int{7}); e != api.OK || bittext.Of(w) != "00"+"0011"+"01"+"110" {
+		t.Errorf("Write of 7: %q, %d", bittext.Of(w), e)
 	}
 }
 
@@ -279,7 +245,7 @@ func TestWriteErrors(t *testing.T) {
 		if e := rice.Write(nil, c.l); e != api.ErrArg {
 			t.Errorf("Write without a writer: %d", e)
 		}
-		for _, w := range []*bits.Writer{bits.New(), filled(t, 0)} {
+		for _, w := range []*bits.Writer{bits.New(), bittext.Filled(0)} {
 			n := w.Len()
 			if e := rice.Write(w, c.l); e != c.want || w.Len() != n {
 				t.Errorf("Write of a wrong list: %d, want the error %d", e, c.want)
@@ -291,14 +257,14 @@ func TestWriteErrors(t *testing.T) {
 	}
 	for _, l := range [][]int{nil, {0}, {5, -900, 17}, {0, 100000}, {1 << 30, 0, 0, 0, 0, 0, 0, 0}} {
 		_, n := orderOf(l)
-		w := filled(t, n-1)
+		w := bittext.Filled(n - 1)
 		for room := n - 1; room >= 0; room-- {
 			if e := rice.Write(w, l); e != api.ErrFull || w.Len() != api.MaxBits-room {
 				t.Errorf("Write of %d bits into %d: %d", n, room, e)
 			}
 			w.Put(0, 1)
 		}
-		w = filled(t, n)
+		w = bittext.Filled(n)
 		if e := rice.Write(w, l); e != api.OK || w.Len() != api.MaxBits {
 			t.Errorf("Write of %d bits into as many: %d", n, e)
 		}
@@ -317,7 +283,7 @@ func TestReadAny(t *testing.T) {
 			for i := range parameters {
 				parameters[i] = random.Intn(15)
 			}
-			r := open(t, textOf(l, p, parameters...)+"1")
+			r := bittext.Open(textOf(l, p, parameters...) + "1")
 			back, e := rice.Read(r, len(l))
 			if e != api.OK || !slices.Equal(back, l) || r.Left() != 1 {
 				t.Errorf("Read of %v with %d and %v: %v, %d", l, p, parameters, back, e)
@@ -329,7 +295,7 @@ func TestReadAny(t *testing.T) {
 // unread fails unless Read returns that error, and leaves the reader alone.
 func unread(t *testing.T, s string, count int, want api.Errno) {
 	t.Helper()
-	r := open(t, "110"+s)
+	r := bittext.Open("110" + s)
 	r.Get(3)
 	if l, e := rice.Read(r, count); len(l) != 0 || e != want || r.At() != 3 {
 		t.Errorf("Read of %d from %q: %v, %d, want the error %d; it stops at %d", count, s, l, e, want, r.At())
@@ -348,7 +314,7 @@ func TestReadShort(t *testing.T) {
 		for n := range s.text {
 			unread(t, s.text[:n], s.count, api.ErrShort)
 		}
-		r := open(t, s.text)
+		r := bittext.Open(s.text)
 		if l, e := rice.Read(r, s.count); len(l) != s.count || e != api.OK || r.Left() != 0 {
 			t.Errorf("Read of %q: %v, %d", s.text, l, e)
 		}
@@ -385,7 +351,7 @@ func TestReadErrors(t *testing.T) {
 		{"01" + "0000" + "1" + "1111" + "1", 2, api.ErrForm}, {"01" + "0000" + "1" + "111", 2, api.ErrShort},
 		// The first element that has an error.
 		{"00" + "0000" + "1" + zeros, 3, api.ErrForm}, {"00" + "0000" + "1" + zeros[1:], 3, api.ErrShort}, {"00" + "0000" + "1", 2, api.ErrShort},
-		{"00" + "0000" + zeros[1:] + "1" + digits(23, 32) + "1", 2, api.ErrForm}, {"00" + "0001" + zeros[1:] + "1" + digits(47, 32), 2, api.ErrForm},
+		{"00" + "0000" + zeros[1:] + "1" + bittext.Number(23, 32) + "1", 2, api.ErrForm}, {"00" + "0001" + zeros[1:] + "1" + bittext.Number(47, 32), 2, api.ErrForm},
 		{"01" + "0000" + "1" + "001" + "1111", 4, api.ErrForm}, {"01" + "0000" + "1" + "001" + "111", 4, api.ErrShort},
 		{"01" + "1110" + "1" + "0000", 2, api.ErrShort},
 	} {
@@ -395,7 +361,7 @@ func TestReadErrors(t *testing.T) {
 
 func TestReadIsNew(t *testing.T) {
 	s := textOf([]int{1, 2, 3, 4}, 1, 1, 2)
-	r := open(t, s+s)
+	r := bittext.Open(s + s)
 	a, _ := rice.Read(r, 4)
 	b, _ := rice.Read(r, 4)
 	clear(a)

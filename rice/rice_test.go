@@ -8,17 +8,9 @@ import (
 	"testing"
 
 	"shawm/api"
+	"shawm/bittext"
 	"shawm/rice"
 )
-
-// digits is v in n bits.
-func digits(v, n int) string {
-	s := make([]byte, n)
-	for i := range s {
-		s[i] = '0' + byte(v>>(n-1-i)&1)
-	}
-	return string(s)
-}
 
 // wordOf is the word of v with the parameter k, as the chapter says it.
 func wordOf(v, k int) string {
@@ -28,9 +20,9 @@ func wordOf(v, k int) string {
 	}
 	q := int(math.Floor(float64(u) / math.Exp2(float64(k))))
 	if q < 24 {
-		return strings.Repeat("0", q) + "1" + digits(u%int(math.Exp2(float64(k))), k)
+		return strings.Repeat("0", q) + "1" + bittext.Number(u%int(math.Exp2(float64(k))), k)
 	}
-	return strings.Repeat("0", 24) + "1" + digits(u, 32)
+	return strings.Repeat("0", 24) + "1" + bittext.Number(u, 32)
 }
 
 // costOf is how many bits the words of l have with the parameter k.
